@@ -570,10 +570,16 @@ func TestCodesKeepArguments(t *testing.T) {
 // whether another one changes by it.
 func checkApart(t *testing.T, name string, lists [][]int) {
 	t.Helper()
+	checkAllApart(t, name, lists, func(n *int) { *n += 1000 })
+}
+
+// checkAllApart is checkApart for lists of anything, with a change that shows.
+func checkAllApart[T any](t *testing.T, name string, lists [][]T, change func(x *T)) {
+	t.Helper()
 	for i, list := range lists {
 		before := fmt.Sprint(lists[:i], lists[i+1:])
 		for k := range whole(list) {
-			whole(list)[k] += 1000
+			change(&whole(list)[k])
 		}
 		if fmt.Sprint(lists[:i], lists[i+1:]) != before {
 			t.Fatalf("%s: the lists share memory: %v", name, lists)
