@@ -847,7 +847,9 @@ func TestEveryShortListOfMoves(t *testing.T) {
 	}
 }
 
-func TestMachinesWithAnyIntEverywhere(t *testing.T) {
+// eachWithAnyInt calls use with valid machines and, of each, copies that have any int in
+// one place.
+func eachWithAnyInt(use func(x impl.Machine, changed impl.Machine, n int)) {
 	for _, n := range machineLimits() {
 		for _, x := range []impl.Machine{asker(), greatest(), machine(2, sends(1, 0, 1))} {
 			for i := range x.Moves {
@@ -863,9 +865,19 @@ func TestMachinesWithAnyIntEverywhere(t *testing.T) {
 					case 3:
 						y.States = n
 					}
-					checkMachine(t, "any int", y, bytesOf(0, 1, n), bytesOf(0, ^n, n))
+					use(x, y, n)
 				}
 			}
+		}
+	}
+}
+
+func TestMachinesWithAnyIntEverywhere(t *testing.T) {
+	eachWithAnyInt(func(_ impl.Machine, changed impl.Machine, n int) {
+		checkMachine(t, "any int", changed, bytesOf(0, 1, n), bytesOf(0, ^n, n))
+	})
+	for _, n := range machineLimits() {
+		for _, x := range []impl.Machine{asker(), greatest(), machine(2, sends(1, 0, 1))} {
 			for _, word := range [][]int{{n}, {0, n}, {n, 0}, {0, -2, n}, {0, n, 0}} {
 				checkRun(t, "any int in a word", x, word, runOf(x, word))
 			}

@@ -26,23 +26,27 @@ func withEnds(x impl.Machine, ends ...bool) impl.Machine {
 	return impl.Machine{States: x.States, Ends: ends, Moves: x.Moves}
 }
 
+func without(x impl.Machine, i int) impl.Machine {
+	return impl.Machine{States: x.States, Ends: x.Ends, Moves: slices.Delete(slices.Clone(x.Moves), i, i+1)}
+}
+
 // isFirst reports whether the moves before i leave its From, Send and Msg to it.
 func isFirst(x impl.Machine, i int) bool {
 	return moveOf(x, x.Moves[i].From, x.Moves[i].Send, x.Moves[i].Msg) == i
 }
 
-// nextOf works by another way than the program's: it holds every two moves against each
-// other and sorts those that are made together.
-func nextOf(a impl.Machine, b impl.Machine, x int, y int) [][]int {
+// metOf works by another way than the program's: it holds every two moves against each
+// other, of the same turn or of both turns, and sorts those that are made together.
+func metOf(a impl.Machine, b impl.Machine, x int, y int, sameTurn bool) [][]int {
 	type meeting struct{ turn, msg, to, other int }
 	var meetings []meeting
 	for i, m := range a.Moves {
 		for k, n := range b.Moves {
-			if m.From != x || n.From != y || m.Msg != n.Msg || m.Send == n.Send || !isFirst(a, i) || !isFirst(b, k) {
+			if m.From != x || n.From != y || m.Msg != n.Msg || (m.Send == n.Send) != sameTurn || !isFirst(a, i) || !isFirst(b, k) {
 				continue
 			}
 			turn := 0
-			if n.Send {
+			if !m.Send {
 				turn = 1
 			}
 			meetings = append(meetings, meeting{turn, m.Msg, m.To, n.To})
@@ -58,8 +62,16 @@ func nextOf(a impl.Machine, b impl.Machine, x int, y int) [][]int {
 	return l
 }
 
+func nextOf(a impl.Machine, b impl.Machine, x int, y int) [][]int {
+	return metOf(a, b, x, y, false)
+}
+
 // reachedOf goes level by level and asks whether a pair was met only when its turn comes.
 func reachedOf(a impl.Machine, b impl.Machine) [][]int {
+	return levelsOf(a, b, false)
+}
+
+func levelsOf(a impl.Machine, b impl.Machine, sameTurn bool) [][]int {
 	all, met := [][]int{}, map[[2]int]bool{}
 	if !isMachineOf(a) || !isMachineOf(b) {
 		return all
@@ -69,7 +81,7 @@ func reachedOf(a impl.Machine, b impl.Machine) [][]int {
 		for _, p := range level {
 			if !met[[2]int(p)] {
 				met[[2]int(p)] = true
-				all, deeper = append(all, p), append(deeper, nextOf(a, b, p[0], p[1])...)
+				all, deeper = append(all, p), append(deeper, metOf(a, b, p[0], p[1], sameTurn)...)
 			}
 		}
 		level = deeper
@@ -208,34 +220,45 @@ func checkTwo(t *testing.T, name string, a impl.Machine, b impl.Machine, states 
 // checkGrown holds the pairs against the program's own NextPairs and TroubleAt.
 func checkGrown(t *testing.T, name string, a impl.Machine, b impl.Machine) {
 	t.Helper()
-	var found [][]int
+	pairs := impl.PairsOf(a, b)
+	checkFound(t, name+": PairsOf", a, b, pairs, func(x int, y int) [][]int {
+		return impl.NextPairs(a, b, x, y)
+	})
 	var first []int
+	for _, p := range pairs {
+		if first == nil && impl.TroubleAt(a, b, p[0], p[1]) != impl.PrFine {
+			first = p
+		}
+	}
+	checkFirst(t, name, a, b, first)
+	checkSafe(t, name, a, b, len(pairs) > 0 && first == nil)
+}
+
+// checkFound holds pairs against the order in which they are found: the first pair first,
+// then what follows each pair in order, each once.
+func checkFound(t *testing.T, name string, a impl.Machine, b impl.Machine, pairs [][]int, next func(x int, y int) [][]int) {
+	t.Helper()
+	var found [][]int
 	add := func(p []int) {
 		if !slices.ContainsFunc(found, func(q []int) bool { return slices.Equal(p, q) }) {
 			found = append(found, p)
 		}
 	}
-	pairs := impl.PairsOf(a, b)
 	if len(pairs) > 0 {
 		add(bytesOf(0, 0))
 	}
 	for i, p := range pairs {
 		if i >= len(found) || !slices.Equal(found[i], p) {
-			t.Errorf("%s: PairsOf(%s) is %v, and before the index %d, %v are found", name, pairText(a, b), pairs, i, found)
+			t.Errorf("%s(%s) is %v, and before the index %d, %v are found", name, pairText(a, b), pairs, i, found)
 			return
 		}
-		for _, q := range impl.NextPairs(a, b, p[0], p[1]) {
+		for _, q := range next(p[0], p[1]) {
 			add(q)
-		}
-		if first == nil && impl.TroubleAt(a, b, p[0], p[1]) != impl.PrFine {
-			first = p
 		}
 	}
 	if len(found) != len(pairs) {
-		t.Errorf("%s: PairsOf(%s) is %v, and %v are found", name, pairText(a, b), pairs, found)
+		t.Errorf("%s(%s) is %v, and %v are found", name, pairText(a, b), pairs, found)
 	}
-	checkFirst(t, name, a, b, first)
-	checkSafe(t, name, a, b, len(pairs) > 0 && first == nil)
 }
 
 // everyPair has MaxStates states and MaxMoves moves, as its partner has; together they
@@ -474,10 +497,6 @@ type pairCase struct {
 
 func pairCases() []pairCase {
 	a, d := asker(), impl.DualOf(asker())
-	without := func(x impl.Machine, i int) impl.Machine {
-		x.Moves = slices.Delete(slices.Clone(x.Moves), i, i+1)
-		return x
-	}
 	one, open := machine(1), impl.Machine{States: 1, Ends: []bool{false}}
 	late := machine(6, sends(0, 0, 0), sends(4, 0, 5))
 	wide := spread()
@@ -738,9 +757,9 @@ func TestWordsComeToPairs(t *testing.T) {
 	}
 }
 
-// Every two machines of two states with up to two moves of a few, so that each kind of
-// trouble is at each kind of pair.
-func TestEveryTwoShortMachines(t *testing.T) {
+// shortMachines returns machines of two states: with up to one move of a few and all
+// Ends, and with up to two moves of them and Ends in turn.
+func shortMachines() (few []impl.Machine, more []impl.Machine) {
 	var alphabet []impl.Move
 	for _, from := range bytesOf(0, 1) {
 		for _, msg := range bytesOf(0, 5) {
@@ -754,7 +773,6 @@ func TestEveryTwoShortMachines(t *testing.T) {
 	for i := range places {
 		places[i] = i
 	}
-	var few, more []impl.Machine
 	eachList(places, 2, func(chosen []int) {
 		x := machine(2)
 		for _, i := range chosen {
@@ -770,6 +788,13 @@ func TestEveryTwoShortMachines(t *testing.T) {
 			}
 		}
 	})
+	return few, more
+}
+
+// Every two machines of two states with up to two moves of a few, so that each kind of
+// trouble is at each kind of pair.
+func TestEveryTwoShortMachines(t *testing.T) {
+	few, more := shortMachines()
 	if len(few) != 4*(1+16) || len(more) != 1+16+16*(2+8) {
 		t.Errorf("there are %d and %d machines", len(few), len(more))
 	}
@@ -815,28 +840,11 @@ func TestPairsOfNoMachines(t *testing.T) {
 
 // Any int in every place of both machines.
 func TestPairsWithAnyIntEverywhere(t *testing.T) {
-	for _, n := range machineLimits() {
-		for _, x := range []impl.Machine{asker(), greatest(), machine(2, sends(1, 0, 1))} {
-			for i := range x.Moves {
-				for field := range 4 {
-					y := impl.Machine{States: x.States, Ends: x.Ends, Moves: slices.Clone(x.Moves)}
-					switch field {
-					case 0:
-						y.Moves[i].From = n
-					case 1:
-						y.Moves[i].Msg = n
-					case 2:
-						y.Moves[i].To = n
-					case 3:
-						y.States = n
-					}
-					checkTwo(t, "any int in one", y, dualOf(x), bytesOf(0, 1, n))
-					checkTwo(t, "any int in both", y, dualOf(y), bytesOf(0, 1, n))
-				}
-			}
-			checkTwo(t, "any int as state", x, dualOf(x), bytesOf(0, n))
-		}
-	}
+	eachWithAnyInt(func(x impl.Machine, changed impl.Machine, n int) {
+		checkTwo(t, "any int in one", changed, dualOf(x), bytesOf(0, 1, n))
+		checkTwo(t, "any int in both", changed, dualOf(changed), bytesOf(0, 1, n))
+		checkTwo(t, "any int as state", x, dualOf(x), bytesOf(0, n))
+	})
 }
 
 func TestPairsOfManyMoves(t *testing.T) {
