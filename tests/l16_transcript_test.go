@@ -690,15 +690,20 @@ func TestTranscriptsWithSmallHash(t *testing.T) {
 	}
 }
 
+// rootOf returns the number of which a function has a value. The function has to be
+// linear, modulo Modulus.
+func rootOf(linear func(n int) int, value int) int {
+	modulus, without := big.NewInt(impl.Modulus), linear(0)
+	slope := big.NewInt(int64(residueOf(linear(1) - without)))
+	root := slope.ModInverse(slope, modulus)
+	root.Mul(root, big.NewInt(int64(residueOf(value-without)))).Mod(root, modulus)
+	return int(root.Int64())
+}
+
 // keyOfFinish returns the key with which FinishOf is finish: a keyed hash is linear in
-// its key, modulo Modulus.
+// its key.
 func keyOfFinish(l [][]int, side int, finish int) int {
-	modulus := big.NewInt(impl.Modulus)
-	without := keyedHashOf(0, side, transcriptHashOf(l))
-	slope := big.NewInt(int64(residueOf(keyedHashOf(1, side, transcriptHashOf(l)) - without)))
-	key := slope.ModInverse(slope, modulus)
-	key.Mul(key, big.NewInt(int64(residueOf(finish-without)))).Mod(key, modulus)
-	return int(key.Int64())
+	return rootOf(func(key int) int { return keyedHashOf(key, side, transcriptHashOf(l)) }, finish)
 }
 
 // A finish of 0 never checks out, also where FinishOf is 0.
