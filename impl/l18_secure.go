@@ -31,7 +31,7 @@ type sight struct {
 }
 
 func EditHello(h Hello, e Edit) Hello {
-	return edited(Hello{Versions: copyList(h.Versions), Exts: copyExts(h.Exts)}, helloEdits(), e)
+	return edited(copyHello(h), helloEdits(), e)
 }
 
 // edited looks the edit up by its kind. It is given a copy of the message, which is all
